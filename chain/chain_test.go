@@ -930,6 +930,43 @@ func TestZ1AnyListAndAnyFile(t *testing.T) {
 }
 
 // The list stays as it is, and what stands behind it in memory is not asked.
+func TestZ1NoShelf(t *testing.T) {
+	var s *Shelf
+	for _, n := range append([]int{0, 1, 4, 5}, far...) {
+		if s.File(n) != nil {
+			t.Errorf("File(%d) is there", n)
+		}
+		if l, err := s.Walk(n); len(l) != 0 || n != -1 && err != api.ErrNone {
+			t.Errorf("Walk(%d) = %v, %v", n, l, err)
+		}
+		want(t, s.Move(n, 0, text(4, 9)), api.ErrNone)
+	}
+	l := []int{0, 1}
+	if got := s.Found(l, 0); got != -1 {
+		t.Errorf("Found = %d", got)
+	}
+	_, err := s.Read(l, 0)
+	want(t, err, api.ErrBound)
+	_, err = s.Get(l, 0, 1)
+	want(t, err, api.ErrBound)
+	want(t, s.Put(l, 0, text(1, 9)), api.ErrBound)
+	want(t, s.Wipe(l, 0, 4), api.ErrBound)
+}
+
+func TestZ1FileOfANumber(t *testing.T) {
+	p := pairOf(t, spec{".", 0, -1}, spec{}, spec{".", 0, -1})
+	for n, i := range p.s {
+		if p.s.File(n) != i {
+			t.Errorf("File(%d) is another one", n)
+		}
+	}
+	for _, n := range append([]int{5, 6}, far...) {
+		if p.s.File(n) != nil {
+			t.Errorf("File(%d) is there", n)
+		}
+	}
+}
+
 func TestZ2TheListIsNotKept(t *testing.T) {
 	p := pairOf(t, spec{"..", 2, -1}, spec{"DD", 0, -1}, spec{"DD", 0, -1})
 	memory := []int{0, 1, 2}
