@@ -100,7 +100,7 @@ func (m *model) make(file, back int) error {
 		return api.ErrExist
 	}
 	h := api.Head{Clusters: m.shelf[m.desk.Root].Head().Clusters, Back: back}
-	for h.Places < 40 && m.files[file].Size() >= 1+(h.Clusters+7)/8+4*(h.Places+1) {
+	for m.files[file].Size() >= 1+(h.Clusters+7)/8+4*(h.Places+1) {
 		h.Places++
 	}
 	i, err := image.Create(m.files[file], h)
@@ -116,7 +116,7 @@ func (m *model) snap(file int) error {
 	if m.goes() {
 		return api.ErrBusy
 	}
-	if len(m.list) > 3 {
+	if len(m.list) == 4 {
 		return api.ErrFull
 	}
 	if err := m.make(file, m.desk.Root); err != nil {

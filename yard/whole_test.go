@@ -412,7 +412,7 @@ func TestW4NeverFasterThanItMay(t *testing.T) {
 func anyDev(t testing.TB, r *rand.Rand, clusters int) *dev.Dev {
 	t.Helper()
 	if r.Intn(6) == 0 {
-		d, err := dev.Of(text(1+r.Intn(30), byte(r.Intn(3))))
+		d, err := dev.Of(text(1+r.Intn(200), byte(r.Intn(3)))) // some have room for more places than an image may have
 		ok(t, err)
 		return d
 	}

@@ -792,8 +792,8 @@ func TestJ3BlankHasNothing(t *testing.T) {
 // TestJ3PlacesAsThereIsRoom: devices of several sizes beside the root.
 func TestJ3PlacesAsThereIsRoom(t *testing.T) {
 	for _, x := range []struct{ clusters, size, places int }{
-		{3, 2, 0}, {3, 5, 0}, {3, 6, 1}, {3, 9, 1}, {3, 10, 2}, {3, 161, 39}, {3, 162, 40}, {3, 166, 40}, {3, 200, 40},
-		{32, 5, 0}, {32, 8, 0}, {32, 9, 1}, {32, 165, 40}, {32, 200, 40}, {9, 3, 0}, {9, 6, 0}, {9, 7, 1},
+		{3, 2, 0}, {3, 5, 0}, {3, 6, 1}, {3, 9, 1}, {3, 10, 2}, {3, 161, 39}, {3, 162, 40}, {3, 165, 40},
+		{32, 5, 0}, {32, 8, 0}, {32, 9, 1}, {32, 165, 40}, {32, 168, 40}, {9, 3, 0}, {9, 6, 0}, {9, 7, 1}, {9, 166, 40},
 	} {
 		files := devsOf(t, spec{strings.Repeat(".", x.clusters), 2, -1})
 		for n := 1; n < 3; n++ {
@@ -824,6 +824,58 @@ func TestJ3NoRoomAtAll(t *testing.T) {
 		p.wantChain(0)
 		p.wantRoot(0)
 	}
+}
+
+// great: a yard of so many clusters; on a device of so many sectors stands file 1, an image apart, and on another one file 2, none.
+func great(t testing.TB, clusters, size int) *pair {
+	t.Helper()
+	files := devsOf(t, spec{strings.Repeat(".", clusters), 2, -1})
+	for n := 1; n < 3; n++ {
+		var err error
+		files[n], err = dev.New(size)
+		ok(t, err)
+	}
+	_, err := image.Create(files[1], api.Head{Clusters: clusters, Places: 1, Back: -1})
+	ok(t, err)
+	return pairOpen(t, files, topOf(t, api.Desk{File: -1}))
+}
+
+// TestJ3MoreRoomThanPlaces: there is room for more places than an image may have: nothing is written, and the file is none, whatever it was.
+func TestJ3MoreRoomThanPlaces(t *testing.T) {
+	for _, x := range []struct{ clusters, size int }{
+		{1, 166}, {1, 167}, {1, 169}, {1, 170}, {1, 200}, {3, 166}, {8, 166}, {9, 167}, {9, 200}, {32, 169}, {32, 172}, {32, 200},
+	} {
+		for file := 1; file < 3; file++ {
+			for _, call := range []func(*pair, int) error{(*pair).blank, (*pair).snap} {
+				p := great(t, x.clusters, x.size)
+				was, _ := p.y.Devs()
+				want(t, call(p, file), api.ErrBound)
+				files, _ := p.y.Devs()
+				sameDev(t, file, files[file], was[file])
+				want(t, p.start(api.Mirror, file, 0, 8), api.ErrNone)
+				p.wantIdle()
+				p.wantChain(0)
+				p.wantRoot(0)
+				want(t, call(p, file), api.ErrBound)
+			}
+		}
+	}
+}
+
+// TestJ3GreatButUsed: what is used is told ahead of how great it is.
+func TestJ3GreatButUsed(t *testing.T) {
+	p := great(t, 2, 200)
+	ok(t, p.start(api.Mirror, 1, 0, 1000))
+	want(t, p.blank(1), api.ErrExist)
+	want(t, p.snap(1), api.ErrBusy)
+	want(t, p.snap(2), api.ErrBusy)
+	p.through()
+	ok(t, p.pivot())
+	p.wantChain(1)
+	want(t, p.blank(1), api.ErrExist)
+	want(t, p.snap(1), api.ErrExist)
+	ok(t, p.snap(0)) // above a great one
+	p.wantChain(0, 1)
 }
 
 // TestJ3ABlankThatFails: whatever the file was, it is none; another try is one.
@@ -867,11 +919,36 @@ func TestJ3SnapsErrorsInOrder(t *testing.T) {
 	want(t, p.snap(4), api.ErrBusy)
 	ok(t, p.cancel())
 	want(t, p.snap(4), api.ErrFull)
+}
 
+// TestJ3SnapOverAllFiles: a chain of MaxFiles files has not MaxFiles less 1: Snap is as Blank.
+func TestJ3SnapOverAllFiles(t *testing.T) {
 	five := []spec{{".", 0, 1}, {".", 0, 2}, {".", 0, 3}, {".", 0, 4}, {".", 0, -1}}
-	p = pairOpen(t, devsOf(t, five...), topOf(t, api.Desk{File: -1}))
+	p := pairOpen(t, devsOf(t, five...), topOf(t, api.Desk{File: -1}))
 	p.wantChain(0, 1, 2, 3, 4)
-	want(t, p.snap(0), api.ErrFull)
+	asBlank := func(file int, e error) {
+		t.Helper()
+		want(t, p.blank(file), e)
+		want(t, p.snap(file), e)
+		p.wantChain(0, 1, 2, 3, 4)
+		p.wantRoot(0)
+	}
+	for file := range 5 {
+		asBlank(file, api.ErrExist)
+	}
+	for _, file := range append([]int{-1, 5}, far...) {
+		asBlank(file, api.ErrBound)
+	}
+	ok(t, p.start(api.Commit, 1, 0, 8))
+	for _, file := range []int{-1, 0, 4, 5} {
+		want(t, p.snap(file), api.ErrBusy)
+	}
+	ok(t, p.pivot())
+	p.wantChain(1, 2, 3, 4)
+	want(t, p.snap(0), api.ErrFull) // one fewer
+	want(t, p.snap(5), api.ErrFull)
+	ok(t, p.start(api.Commit, 2, 0, 8), p.pivot(), p.snap(1))
+	p.wantChain(1, 2, 3, 4)
 }
 
 func TestJ3SnapKeepsWhatIsSeen(t *testing.T) {
